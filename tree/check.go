@@ -49,9 +49,9 @@ func checkFunc(f api.Func) api.Errno {
 	return checkStmts(f.Body, 1)
 }
 
-// checkStmts at a depth. Where no statement is, none is too deep.
+// checkStmts at a depth, which is asked of the list, so that one without statements may be too deep as well: every statement has such lists.
 func checkStmts(l []api.Stmt, depth int) api.Errno {
-	if len(l) > 0 && depth > api.MaxNest {
+	if depth > api.MaxNest {
 		return api.ErrSize
 	}
 	for _, s := range l {

@@ -248,7 +248,7 @@ func stmtEverywhere(t *testing.T, s api.Stmt, want api.Errno) {
 	t.Helper()
 	for _, l := range [][]api.Stmt{
 		{s}, {say(num(1)), s}, {s, {}}, {iff(num(1), []api.Stmt{s}, nil)}, {iff(num(1), nil, []api.Stmt{s})}, {while(num(1), say(num(2)), s)},
-		{iff(num(1), []api.Stmt{s}, []api.Stmt{{}})}, inner([]api.Stmt{s}, 11),
+		{iff(num(1), []api.Stmt{s}, []api.Stmt{{}})}, inner([]api.Stmt{s}, 10),
 	} {
 		if want == 0 && len(l) == 2 && l[1].Kind == 0 {
 			l = l[:1]
@@ -349,27 +349,52 @@ func TestFirstOfStatements(t *testing.T) {
 	checked(t, unitOf(say(num(1)), say(num(-1)), api.Stmt{}), 2)
 }
 
-// P6.3: statements may stand at the depth 12, and not below it; where none is, none is too deep.
+// P6.3: statements are looked at down to the depth 12; there each one's Body, at 13, is too deep, also where it holds none.
 func TestStatementDepths(t *testing.T) {
 	for depth := 1; depth <= 60; depth++ {
-		for _, s := range []api.Stmt{set("x", num(1)), setAt("x", num(1), num(1)), iff(num(1), nil, nil), while(num(1)), ret(num(1)), say(nest(num(1), 12))} {
-			want := api.Errno(0)
+		want := api.Errno(0)
+		if depth > 11 {
+			want = 1
+		}
+		for _, s := range []api.Stmt{
+			set("x", num(1)), setAt("x", num(1), num(1)), iff(num(1), nil, nil), while(num(1)), ret(num(1)), say(nest(num(1), 12)),
+			{Kind: 6, Exprs: []api.Expr{num(1)}, Body: []api.Stmt{}, Else: []api.Stmt{}}, iff(num(1), []api.Stmt{}, []api.Stmt{}),
+		} {
+			checked(t, unitOf(inner([]api.Stmt{s}, depth)...), want)
+		}
+		if want = 0; depth > 12 {
+			want = 1
+		}
+		checked(t, unitOf(inner(nil, depth)...), want)
+		checked(t, unitOf(inner([]api.Stmt{}, depth)...), want)
+	}
+	// Depths of statements and of expressions are told apart, and bodies side by side are equally deep.
+	checked(t, unitOf(inner([]api.Stmt{say(nest(num(1), 13))}, 11)...), 1)
+	checked(t, unitOf(append(inner([]api.Stmt{say(num(1))}, 11), inner([]api.Stmt{say(num(1))}, 11)...)...), 0)
+	checked(t, unitOf(append(inner([]api.Stmt{say(num(1))}, 12), api.Stmt{})...), 1)
+	checked(t, unitOf(append([]api.Stmt{{}}, inner([]api.Stmt{say(num(1))}, 12)...)...), 3)
+}
+
+// P6.3: what is wrong with a statement at the depth 12 is told ahead of its Body's being too deep, and that ahead of the next statement; below that nothing is looked at.
+func TestFirstOfTooDeep(t *testing.T) {
+	wrong := []api.Stmt{{}, {Kind: 7}, set("", num(1)), set("if", num(1)), {Kind: 6}, say(api.Expr{}), say(named("1")), say(num(-1)), iff(num(-1), []api.Stmt{{}}, nil), {Kind: 5, Exprs: []api.Expr{num(1)}, Body: []api.Stmt{{}}}}
+	wrongs := []api.Errno{3, 3, 4, 4, 4, 3, 4, 2, 2, 4}
+	for i, s := range wrong {
+		for depth := 1; depth <= 20; depth++ {
+			want := wrongs[i]
 			if depth > 12 {
 				want = 1
 			}
 			checked(t, unitOf(inner([]api.Stmt{s}, depth)...), want)
+			checked(t, unitOf(inner([]api.Stmt{s, say(num(1))}, depth)...), want)
+			if depth > 11 {
+				want = 1
+			}
+			checked(t, unitOf(inner([]api.Stmt{say(num(1)), s}, depth)...), want)
+			checked(t, unitOf(inner([]api.Stmt{iff(num(1), nil, []api.Stmt{s})}, depth)...), want)
+			checked(t, unitOf(inner([]api.Stmt{while(num(1), s)}, depth)...), want)
 		}
-		want := api.Errno(3)
-		if depth > 12 {
-			want = 1
-		}
-		checked(t, unitOf(inner([]api.Stmt{{}}, depth)...), want)
 	}
-	// Depths of statements and of expressions are told apart, and bodies side by side are equally deep.
-	checked(t, unitOf(inner([]api.Stmt{say(nest(num(1), 13))}, 12)...), 1)
-	checked(t, unitOf(append(inner([]api.Stmt{say(num(1))}, 12), inner([]api.Stmt{say(num(1))}, 12)...)...), 0)
-	checked(t, unitOf(append(inner([]api.Stmt{say(num(1))}, 13), api.Stmt{})...), 1)
-	checked(t, unitOf(append([]api.Stmt{{}}, inner([]api.Stmt{say(num(1))}, 13)...)...), 3)
 }
 
 // P6.3: of all functions, and of all bodies, and told at last.

@@ -67,11 +67,11 @@ func exprFaults(x api.Expr, depth int) []api.Errno {
 }
 
 func stmtFaults(l []api.Stmt, depth int) []api.Errno {
+	if depth > 12 {
+		return []api.Errno{1}
+	}
 	var faults []api.Errno
-	for i, s := range l {
-		if i == 0 && depth > 12 {
-			return []api.Errno{1}
-		}
+	for _, s := range l {
 		if s.Kind < 1 || s.Kind > 6 {
 			faults = append(faults, 3)
 		}

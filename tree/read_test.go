@@ -128,10 +128,14 @@ func TestReadRefusesWhatCheckRefuses(t *testing.T) {
 		if n <= 11 {
 			want = 0
 		}
+		deep := func(each, last string, n int) string {
+			return "unit one func f() { " + strings.Repeat(each+" { ", n) + last + strings.Repeat(" }", n) + " }"
+		}
 		for _, s := range []string{
 			sayIn(strings.Repeat("(1 + ", n) + "x" + strings.Repeat(")", n)), sayIn(strings.Repeat("a[", n) + "x" + strings.Repeat("]", n)),
-			"unit one func f() { " + strings.Repeat("while 1 { ", n) + "say 1;" + strings.Repeat(" }", n) + " }",
-			"unit one func f() { " + strings.Repeat("if 1 { } else { ", n) + "say 1;" + strings.Repeat(" }", n) + " }",
+			// A body without statements may stand one deeper than one with them.
+			deep("while 1", "", n), deep("if 1", "", n), deep("if 1 { } else", "", n),
+			deep("while 1", "say 1;", max(n-1, 0)), deep("if 1 { } else", "x = 1;", max(n-1, 0)), deep("if 1", "if 1 { }", max(n-1, 0)), deep("while 1", "return 1;", max(n-1, 0)),
 		} {
 			if _, e := Read(s); e != want {
 				t.Errorf("Read(%q): %d", s, int(e))

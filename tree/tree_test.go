@@ -158,8 +158,8 @@ func TestShowExpressions(t *testing.T) {
 
 // P6.4: as deep as may be, each one blank further in; and texts that Read would refuse for their length.
 func TestShowDeepAndLong(t *testing.T) {
-	l, text := []api.Stmt{say(num(1))}, strings.Repeat(" ", 12)+"say 1;\n"
-	for n := 11; n >= 1; n-- {
+	l, text := []api.Stmt{say(num(1))}, strings.Repeat(" ", 11)+"say 1;\n"
+	for n := 10; n >= 1; n-- {
 		gap := strings.Repeat(" ", n)
 		l, text = []api.Stmt{while(num(n), l...)}, gap+"while "+fmt.Sprint(n)+" {\n"+text+gap+"}\n"
 	}
